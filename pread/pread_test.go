@@ -111,6 +111,7 @@ func TestReadErrors(t *testing.T) {
 		{"M", "M", msg(f(10, tx(""), api.Val{M: rest(str(1, "a"))})), api.ErrArg},
 		{"M", "M", msg(f(20, tx(long+"more than that"))), api.ErrLimit},
 		{"M", "M", rest(str(99, long), f(20, tx(long))), api.ErrLimit},
+		{"M", "M", msg(f(9, api.Val{M: rest("", f(20, tx(long+"more than that")))}, api.Val{M: rest(str(1, "a"))})), api.ErrArg},
 	} {
 		got, e := Read(o, r, x.a, x.b, x.m)
 		if e != x.e || !pval.Same(got, api.Msg{}) {
