@@ -105,6 +105,7 @@ func TestCheck(t *testing.T) {
 		{record(r, `a `+never), `"int"`, true},
 		{array(`"int"`), array(`"string"`), false},
 		{maps(`"int"`), maps(`"long"`), true},
+		{maps(`"int"`), maps(`"string"`), false},
 		// unions
 		{`["int","string"]`, `["string","long"]`, true},
 		{`["int","string"]`, `["string"]`, false},
@@ -146,6 +147,12 @@ func TestCheck(t *testing.T) {
 		alike := strings.Contains(x.r, "b.R") && strings.Contains(x.r, "a.R")
 		if !alike && (!Check(w, w, 0, 0) || !Check(rd, rd, 0, 0)) {
 			t.Errorf("%d: a schema does not read itself", i)
+		}
+		if k := len(w.Types); Check(w, rd, k, 0) || Match(w, rd, k, 0) {
+			t.Errorf("%d: of one type too many", i)
+		}
+		if k := len(rd.Types); Check(w, rd, 0, k) || Match(w, rd, 0, k) {
+			t.Errorf("%d: of one type too many", i)
 		}
 		for _, k := range []int{-1, 99} {
 			if Check(w, rd, k, 0) || Check(w, rd, 0, k) || Match(w, rd, k, 0) || Match(w, rd, 0, k) {

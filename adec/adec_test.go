@@ -96,6 +96,22 @@ func TestDecode(t *testing.T) {
 	}
 }
 
+// nested writes an array of ints within so many arrays.
+func nested(n int) string {
+	return strings.Repeat(`{"type":"array","items":`, n) + array + strings.Repeat("}", n)
+}
+
+// P21.1
+func TestArraysWithinEachOther(t *testing.T) {
+	s := api.ASchema{Types: []api.AType{{Kind: api.AArray, Items: 0}}}
+	for n, want := range map[int]api.Errno{19: api.OK, 20: api.ErrLimit} {
+		b := strings.Repeat("\x02", n) + strings.Repeat("\x00", n+1)
+		if _, _, e := Decode(s, 0, []byte(b)); e != want {
+			t.Errorf("%d within each other: %d", n, e)
+		}
+	}
+}
+
 // P21.1
 func TestDecodeErrors(t *testing.T) {
 	text := "\x92\x4e" + strings.Repeat("a", 5001)
@@ -126,6 +142,11 @@ func TestDecodeErrors(t *testing.T) {
 		{`["int"]`, most, api.ErrMalformed},
 		{array, least, api.ErrMalformed},
 		{array, least + "\x00", api.ErrMalformed},
+		{array, least + "\x00\x00", api.ErrMalformed},
+		{`{"type":"array","items":"null"}`, "\x01\x00\x00", api.OK},
+		{`{"type":"array","items":"null"}`, "\x01\x01\x00", api.ErrMalformed},
+		{nested(18), strings.Repeat("\x02", 18) + "\x02\x02" + strings.Repeat("\x00", 19), api.OK},
+		{nested(18), strings.Repeat("\x02", 18) + "\x00" + strings.Repeat("\x00", 18), api.OK},
 		{array, "\x01\x01\x02\x00", api.ErrMalformed},
 		{array, "\x01\x00\x02\x00", api.ErrMalformed},
 		{array, "\x01\x04\x02\x00", api.ErrMalformed},

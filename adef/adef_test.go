@@ -65,6 +65,7 @@ func TestValue(t *testing.T) {
 		{fixed, `"\u0080é"`, api.AVal{S: "\x80\xe9"}},
 		{`"string"`, `"é😀"`, api.AVal{S: "é😀"}},
 		{enum, `"B"`, n(1)},
+		{enum, `"A"`, n(0)},
 		{`{"type":"array","items":"int"}`, `[1,2]`, in(n(1), n(2))},
 		{`{"type":"array","items":"int"}`, `[]`, api.AVal{}},
 		{`{"type":"map","values":"int"}`, `{"b":1,"a":2,"":3}`, api.AVal{Keys: []string{"", "a", "b"}, L: []api.AVal{n(3), n(2), n(1)}}},
@@ -110,6 +111,11 @@ func TestValueErrors(t *testing.T) {
 		{record("R", `a "int"`), `{}`, api.ErrType},
 		{record("R", `a "int"`), `[1]`, api.ErrType},
 		{record("R", `a "int" "x"`), `{}`, api.ErrType},
+		{record("R", `a "int" 1`), `[]`, api.ErrType},
+		{record("R", `a "int" 1`), `null`, api.ErrType},
+		{record("R", `a {"type":"map","values":"R"}`), strings.Repeat(`{"a":{"k":`, 9) + `{"a":{}}` + strings.Repeat("}}", 9), api.OK},
+		{record("R", `a {"type":"map","values":["R"]}`), strings.Repeat(`{"a":{"k":`, 6) + `{"a":{}}` + strings.Repeat("}}", 6), api.OK},
+		{record("R", `a {"type":"map","values":["R"]}`), strings.Repeat(`{"a":{"k":`, 7) + `{"a":{}}` + strings.Repeat("}}", 7), api.ErrLimit},
 		{`["null","int"]`, `1`, api.ErrType},
 		{record("R", `a "R"`), `{}`, api.ErrType},
 		{record("R", `a "R" {}`), `{}`, api.ErrLimit},
@@ -118,7 +124,7 @@ func TestValueErrors(t *testing.T) {
 		{record("R", `a "int"`, `b "R" {}`), `{"a":1}`, api.ErrType},
 	} {
 		v, e := Value(from(t, x.schema), 0, tree(t, x.def))
-		if e != x.e || !reflect.DeepEqual(v, api.AVal{}) {
+		if e != x.e || e != api.OK && !reflect.DeepEqual(v, api.AVal{}) {
 			t.Errorf("%s, %s: %v %d", x.schema, x.def, v, e)
 		}
 	}
@@ -186,6 +192,24 @@ func TestCheck(t *testing.T) {
 		if e != x.e || i != x.t || field != x.field {
 			t.Errorf("%s: %d %d %d", x.s, e, i, field)
 		}
+	}
+}
+
+// P14.1: keys that no value has.
+func TestOddKeys(t *testing.T) {
+	s := from(t, `{"type":"map","values":"null"}`)
+	null := api.JNode{Kind: api.JNull}
+	for _, names := range [][]string{{"\xff", "a"}, {"a", "\xff"}, {"a", "a"}, {"a"}, {"a", "b", "c"}} {
+		if v, e := Value(s, 0, api.JNode{Kind: api.JTable, Names: names, L: []api.JNode{null, null}}); e != api.ErrType {
+			t.Errorf("%q: %v %d", names, v, e)
+		}
+	}
+	deep := null
+	for range 10 {
+		deep = api.JNode{Kind: api.JTable, Names: []string{"a"}, L: []api.JNode{{Kind: api.JTable, Names: []string{"k"}, L: []api.JNode{deep}}}}
+	}
+	if _, e := Value(from(t, record("R", `a {"type":"map","values":"R"}`)), 0, deep); e != api.ErrLimit {
+		t.Errorf("21 deep: %d", e)
 	}
 }
 

@@ -200,6 +200,10 @@ func TestFromErrors(t *testing.T) {
 		{record(many(30, `{"name":"f#","type":["null","int"]}`)), api.ErrLimit},
 		{record(many(29, `{"name":"f#","type":["int"]}`) + `,{"name":"x","type":"int"}`), api.OK},
 		{record(many(29, `{"name":"f#","type":["int"]}`) + `,{"name":"x","type":["int"]}`), api.ErrLimit},
+		{record(many(29, `{"name":"f#","type":["int"]}`) + `,{"name":"x","type":{"type":"array","items":"R"}}`), api.OK},
+		{record(many(29, `{"name":"f#","type":["int"]}`) + `,{"name":"x","type":{"type":"array","items":["R"]}}`), api.ErrLimit},
+		{record(many(29, `{"name":"f#","type":["int"]}`) + `,{"name":"x","type":{"type":"array","items":{"type":"map","values":"R"}}}`), api.ErrLimit},
+		{record(many(29, `{"name":"f#","type":["int"]}`) + `,{"name":"x","type":{"type":"array","items":{"type":"fixed","name":"F","size":1}}}`), api.ErrLimit},
 		{`[` + many(30, `{"type":"fixed","name":"F#","size":1}`) + `]`, api.OK},
 		{`[` + many(31, `{"type":"fixed","name":"F#","size":1}`) + `]`, api.ErrLimit},
 		{arrays(19, `"int"`), api.OK},
@@ -215,6 +219,40 @@ func TestFromErrors(t *testing.T) {
 		s, e := from(t, x.s)
 		if e != x.e || e != api.OK && s.Types != nil {
 			t.Errorf("%.120s: %d, not %d", x.s, e, x.e)
+		}
+	}
+}
+
+// P11.1: trees within each other, of each form.
+func TestDepth(t *testing.T) {
+	text := func(s string) api.JNode { return api.JNode{Kind: api.JText, S: s} }
+	list := func(l ...api.JNode) api.JNode { return api.JNode{Kind: api.JList, L: l} }
+	table := func(names string, l ...api.JNode) api.JNode {
+		return api.JNode{Kind: api.JTable, Names: strings.Fields(names), L: l}
+	}
+	n := 0
+	for i, wrap := range []func(api.JNode) api.JNode{
+		func(x api.JNode) api.JNode { return table("type", x) },
+		func(x api.JNode) api.JNode { return table("type items", text("array"), x) },
+		func(x api.JNode) api.JNode { return table("type values", text("map"), x) },
+		func(x api.JNode) api.JNode {
+			n++
+			return table("type name fields", text("record"), text(fmt.Sprint("R", n)), list(table("name type", text("f"), x)))
+		},
+	} {
+		// The table and the text within a list are two trees more.
+		x := list(table("type", text("int")))
+		for range 18 {
+			x = wrap(x)
+		}
+		if _, e := From(x); e != api.OK {
+			t.Errorf("%d: 20 deep: %d", i, e)
+		}
+		if _, e := From(wrap(x)); e != api.ErrLimit {
+			t.Errorf("%d: 21 deep: %d", i, e)
+		}
+		if _, e := From(table("type", x)); e != api.ErrLimit {
+			t.Errorf("%d: 21 deep: %d", i, e)
 		}
 	}
 }

@@ -106,6 +106,35 @@ func TestRanksByRounds(t *testing.T) {
 	}
 }
 
+// P13.1: a record and a union are one more than what they need.
+func TestRanksAlike(t *testing.T) {
+	x, y := record("X", `["int"]`), record("Y", record("Z"))
+	for _, s := range []string{"[" + x + "," + y + "]", "[" + y + "," + x + "]"} {
+		if v, is := Least(from(t, s), 0); !is || v.Branch != 0 {
+			t.Errorf("%s: %v", s, v)
+		}
+	}
+}
+
+// P13.1
+func TestLeastAtItsLimits(t *testing.T) {
+	for n, want := range map[int]bool{999: true, 1000: false} {
+		s := api.ASchema{Types: []api.AType{{Kind: api.ARecord}, {Kind: api.AUnion, Branches: []int{2}}, {Kind: api.AInt}}}
+		for range n {
+			s.Types[0].Fields = append(s.Types[0].Fields, api.AField{Type: 1})
+		}
+		if _, is := Least(s, 0); is != want {
+			t.Errorf("%d unions: %v", n, is)
+		}
+	}
+	for _, size := range []int{0, api.MaxBytes} {
+		s := from(t, fmt.Sprintf(`{"type":"fixed","name":"F","size":%d}`, size))
+		if v, is := Least(s, 0); !is || v.S != strings.Repeat("\x00", size) {
+			t.Errorf("%d noughts: %v", size, is)
+		}
+	}
+}
+
 // P13.1
 func TestNoLeast(t *testing.T) {
 	for _, s := range []string{record("R", `"R"`), record("R", `["R"]`), record("R", record("S", `["R","S"]`))} {

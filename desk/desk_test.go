@@ -80,6 +80,11 @@ func TestProto(t *testing.T) {
 	ask(t, d, proto("p", "message M { int32 a = 1; } enum E { A = 0; }"), no(api.ErrTwice))
 	ask(t, d, proto("p", "message M { int32 a = 0; }"), no(api.ErrRule))
 	ask(t, d, avro("p", `"int"`), no(api.ErrTwice))
+	ask(t, d, proto("e", "enum E { A = 0; B = 1; }"), yes())
+	ask(t, d, proto("e", "enum E { A = 0; B = 1; }"), yes())
+	for _, other := range []string{"enum F { A = 0; B = 1; }", "enum E { A = 0; }", "enum E { A = 0; C = 1; }", "enum E { A = 0; B = 2; }"} {
+		ask(t, d, proto("e", other), no(api.ErrTwice))
+	}
 	r := api.Request{Kind: api.AskProto, Name: "q", Sources: []api.Source{{Name: "a", Text: head + "import 'b'; message M { N n = 1; }"}, {Name: "b", Text: head + "message N {}"}}}
 	ask(t, d, r, yes())
 	r.Sources[0], r.Sources[1] = r.Sources[1], r.Sources[0]
@@ -221,7 +226,7 @@ func TestMasks(t *testing.T) {
 
 // P30.1
 func TestShowAndTell(t *testing.T) {
-	d := desk(t, proto("p", "message M { int32 a = 1; repeated string s = 2; map<int64, M> m = 3; }"), avro("a", `["null",`+record(field("a", `"long"`))+`]`))
+	d := desk(t, avro("i", `"int"`), proto("p", "message M { int32 a = 1; repeated string s = 2; map<int64, M> m = 3; }"), avro("a", `["null",`+record(field("a", `"long"`))+`]`))
 	for _, x := range []struct{ name, typ, b, text string }{
 		{"p", "M", "", "{}"},
 		{"p", "M", "\x08\x05\x12\x01a\x12\x00\x1a\x06\x08\x02\x12\x02\x08\x01", `{"a":5,"s":["a",""],"m":{"2":{"a":1}}}`},
@@ -244,6 +249,8 @@ func TestShowAndTell(t *testing.T) {
 		{api.Request{Kind: api.AskTell, Name: "p", Type: "M", Text: `{"a":0}`}, api.ErrType},
 		{api.Request{Kind: api.AskTell, Name: "p", Type: "M", Text: `{"s":["` + strings.Repeat("a", 5000) + `"]}`}, api.ErrLimit},
 		{api.Request{Kind: api.AskTell, Name: "a", Text: `{"a":1}`}, api.ErrType},
+		{api.Request{Kind: api.AskTell, Name: "i", Text: `"1"`}, api.ErrType},
+		{api.Request{Kind: api.AskTell, Name: "p", Type: "M", Text: `{"b":1}`}, api.ErrType},
 		{api.Request{Kind: api.AskTell, Name: "a", Text: `{"a":1`}, api.ErrMalformed},
 		{api.Request{Kind: api.AskTell, Name: "a", Text: strings.Repeat(" ", 2*api.MaxBytes+1)}, api.ErrLimit},
 	} {

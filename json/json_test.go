@@ -88,6 +88,9 @@ func TestParseErrors(t *testing.T) {
 		{"[1}", api.ErrMalformed},
 		{"{", api.ErrMalformed},
 		{`{"a"}`, api.ErrMalformed},
+		{`{:1}`, api.ErrMalformed},
+		{`{"a" 1}`, api.ErrMalformed},
+		{`{"a":1 "b":2}`, api.ErrMalformed},
 		{`{"a":}`, api.ErrMalformed},
 		{`{"a":1,}`, api.ErrMalformed},
 		{`{a:1}`, api.ErrMalformed},
@@ -178,6 +181,15 @@ func TestGet(t *testing.T) {
 		if n.L[1].L[0].N != 2 {
 			t.Error("what is told is the argument's memory")
 		}
+	}
+	if v, ok := Get(n, "a"); !ok || v.N != 1 {
+		t.Errorf("the first: %v %v", v, ok)
+	}
+	inner := table("t", table("u", null))
+	v, _ := Get(inner, "t")
+	v.Names[0] = "x"
+	if inner.L[0].Names[0] != "u" {
+		t.Error("names that are told are the argument's memory")
 	}
 	for _, name := range []string{"", "c", "x"} {
 		if v, ok := Get(n, name); ok || !Same(v, api.JNode{}) {

@@ -15,6 +15,8 @@ func TestField(t *testing.T) {
 		ok   bool
 	}{
 		{api.AField{Name: "b", Aliases: []string{"a"}}, 1, true},
+		{api.AField{Name: "a", Aliases: []string{"b"}}, 0, true},
+		{api.AField{Name: "x", Aliases: []string{"a", "b"}}, 0, true},
 		{api.AField{Name: "x", Aliases: []string{"y", "c", "a"}}, 2, true},
 		{api.AField{Name: "x", Aliases: []string{"y"}}, 0, false},
 		{api.AField{Name: "z"}, 0, false},

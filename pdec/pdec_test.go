@@ -91,6 +91,8 @@ func TestDecode(t *testing.T) {
 		{str(31, str(2, "a"), num(1, 2), str(2, "b"), num(1, 4)), msg(f(31, n(2), tx("b")))},
 		{str(31, num(1, 2), str(2, "a")) + str(31, num(1, 2)), msg(f(31, n(1), tx("")))},
 		{str(31, str(1, "x"), num(2, 5), num(3, 1), f4(1, 1), num(1, 2)), msg(f(31, n(1), tx("")))},
+		{str(31, str(2, "a"), num(2, 5), str(3, "z"), num(3, 4)), msg(f(31, n(0), tx("a")))},
+		{str(31, num(1, 2), str(1, "z")), msg(f(31, n(1), tx("")))},
 		{str(32, str(1, "k")), msg(f(32, tx("k"), in()))},
 		{str(32, str(2, num(1, 1)), str(1, "k"), str(2, num(11, 2))), msg(f(32, tx("k"), in(f(1, n(1)), f(11, n(2)))))},
 		{str(32, str(1, "k"), str(2, num(1, 1))) + str(32, str(1, "k"), str(2, num(11, 2))), msg(f(32, tx("k"), in(f(11, n(2)))))},

@@ -111,6 +111,7 @@ func TestEncodeErrors(t *testing.T) {
 		{msg(f(5, in(f(2, long(api.MaxBytes-5))))), api.ErrLimit},
 		{msg(f(2, long(api.MaxBytes)), f(1, n(1))), api.ErrType},
 		{msg(f(31, n(1), long(api.MaxBytes))), api.ErrLimit},
+		{msg(f(32, tx("k"), in(f(2, long(api.MaxBytes))))), api.ErrLimit},
 		{msg(f(22, long(api.MaxBytes), tx("\xff"))), api.ErrType},
 		{api.Msg{Fields: []api.Field{f(2, long(api.MaxBytes-6))}, Rest: num(99, 1)}, api.OK},
 		{api.Msg{Fields: []api.Field{f(2, long(api.MaxBytes-5))}, Rest: num(99, 1)}, api.ErrLimit},

@@ -49,7 +49,7 @@ message M {
   enum Empty {}
   N last = 0;
 }
-enum T { X = 1; }
+enum T { X = 1;; }
 `
 	want := api.FFile{
 		Package: "a.b",
@@ -117,6 +117,7 @@ func TestParseErrors(t *testing.T) {
 		{head + "package ^.a;", api.ErrMalformed},
 		{head + "package ^'a';", api.ErrMalformed},
 		{head + "package a^}", api.ErrMalformed},
+		{head + "package a ^message M {}", api.ErrMalformed},
 		{head + "package a; message M {} ^package 1;", api.ErrTwice},
 		{head + "import ^a;", api.ErrMalformed},
 		{head + "import 'a'^", api.ErrMalformed},
@@ -151,6 +152,7 @@ func TestParseErrors(t *testing.T) {
 		{head + "message M { map<int32, ^1> a = 1; }", api.ErrMalformed},
 		{head + "message M { map<int32, int32 ^a = 1; }", api.ErrMalformed},
 		{head + "message M { map<int32, int32> a = 1 ^[packed=true]; }", api.ErrMalformed},
+		{head + "message M { map<int32, int32> a = 1 ^}", api.ErrMalformed},
 		{head + "message M { message ^= 1; }", api.ErrMalformed},
 		{head + "message M { message x ^= 1; }", api.ErrMalformed},
 		{head + "message M { enum x ^= 1; }", api.ErrMalformed},
@@ -165,6 +167,9 @@ func TestParseErrors(t *testing.T) {
 		{head + "message M { oneof o { int32 a = 1; ^message X {} } }", api.ErrMalformed},
 		{head + "message M { oneof o { ^oneof x { int32 a = 1; } } }", api.ErrMalformed},
 		{head + "message M { oneof o { ^reserved 1; } }", api.ErrMalformed},
+		{head + "message M { oneof o { ^enum E {} } }", api.ErrMalformed},
+		{head + "message M { oneof o {" + many(30, "A a=1;") + "^; } }", api.ErrMalformed},
+		{head + "message M {" + many(30, "A a=1;") + "oneof o { ^map<int32, A> a=1; } }", api.ErrMalformed},
 		{head + "message M { oneof ^a.b { int32 a = 1; } }", api.ErrMalformed},
 		{head + "message M { reserved ^; }", api.ErrMalformed},
 		{head + "message M { reserved 1, ^'a'; }", api.ErrMalformed},
@@ -178,6 +183,7 @@ func TestParseErrors(t *testing.T) {
 		{head + "message M { reserved ^max; }", api.ErrMalformed},
 		{head + "message M { reserved 1 ^2; }", api.ErrMalformed},
 		{head + "message M { reserved 1,^; }", api.ErrMalformed},
+		{head + "message M { reserved 1 ^}", api.ErrMalformed},
 		{head + "enum ^a.b {}", api.ErrMalformed},
 		{head + "enum E { ^a.b = 1; }", api.ErrMalformed},
 		{head + "enum E { A ^1; }", api.ErrMalformed},
@@ -187,6 +193,9 @@ func TestParseErrors(t *testing.T) {
 		{head + "enum E { A = ^2147483648 }", api.ErrLimit},
 		{head + "enum E { A = - ^2147483649; }", api.ErrLimit},
 		{head + "enum E { A = 0;^", api.ErrMalformed},
+		{head + "enum E { A = 0 ^}", api.ErrMalformed},
+		{head + "enum E {" + many(30, "A=0;") + "^1 = 1; }", api.ErrMalformed},
+		{head + "enum E {" + many(30, "A=0;") + "^a.b = 1; }", api.ErrMalformed},
 		{head + "enum E { A = 0; } message M { ^1a", api.ErrMalformed},
 	} {
 		at := strings.Index(x.s, "^")
@@ -231,6 +240,7 @@ func TestLimits(t *testing.T) {
 		{"message M {reserved 100" + many(29, ",#") + "; reserved ", "1 to 'a'", "}"},
 		{"message M {reserved 'x'" + many(29, ",'a#'") + ",", "'b'", "}"},
 		{"message M {reserved 'x'" + many(14, ",'a#'") + "; reserved 1" + many(14, ",#") + "; reserved ", "'b'", "}"},
+		{"message M {reserved 1" + many(14, ",#") + "; reserved 'x'" + many(14, ",'a#'") + "; reserved ", "2", ";}"},
 		{"enum E {" + many(30, "A#=#;"), "A=1;", "}"},
 		{deep(api.MaxDepth), "message M{}", strings.Repeat("}", api.MaxDepth)},
 	} {

@@ -132,6 +132,7 @@ func TestFind(t *testing.T) {
 		{"near", "", "P", "P", api.KMessage},
 		{"near", "a.b", "N", "", 0},
 		{"far", "", "M", "", 0},
+		{"far", "", "Q", "Q", api.KMessage},
 		{"none", "a", "M", "", 0},
 		{"root", "a.b.M", "", "", 0},
 		{"root", "a.b.M", ".", "", 0},

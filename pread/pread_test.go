@@ -72,6 +72,7 @@ func TestRead(t *testing.T) {
 		{msg(f(14, tx("é"))), msg(f(14, tx("é")))},
 		{rest(num(99, 1), f(20, tx("x")), f(21, in(f(1, n(1)))), f(22, n(1), n(2))), rest(str(20, "x") + str(21, num(1, 1)) + str(22, "\x01\x02") + num(99, 1))},
 		{msg(f(21, api.Val{M: rest(num(30, 1))})), rest(str(21, num(30, 1)))},
+		{rest(str(99, strings.Repeat("a", api.MaxBytes-4))), rest(str(99, strings.Repeat("a", api.MaxBytes-4)))},
 		{msg(f(8, api.Val{M: rest(num(30, 1), f(1, n(1)))})), msg(f(8, api.Val{M: rest(num(30, 1), f(1, n(1)))}))},
 	} {
 		got, e := Read(o, r, "M", "M", x.m)

@@ -161,6 +161,9 @@ func TestLookUp(t *testing.T) {
 	if !ok || len(m.Fields) != 3 || len(m.Oneofs) != 1 {
 		t.Fatalf("%v %v", m, ok)
 	}
+	if f, ok := Field(m, 2); !ok || f.Name != "b" {
+		t.Errorf("%v %v", f, ok)
+	}
 	if f, ok := Field(m, 5); !ok || f.Name != "a" {
 		t.Errorf("%v %v", f, ok)
 	}
@@ -187,6 +190,14 @@ func TestLookUp(t *testing.T) {
 	}
 	if u, ok := Enum(s, "M"); ok || u.Name != "" {
 		t.Errorf("%v", u)
+	}
+}
+
+// P10.1: both rise by name, whatever the order in which they are written.
+func TestOrder(t *testing.T) {
+	s, _, _ := schema(t, "root:message B {} enum Z { X = 0; } message A { message B {} } enum Y { X = 0; }")
+	if len(s.Messages) != 3 || s.Messages[0].Name != "A" || s.Messages[1].Name != "A.B" || s.Messages[2].Name != "B" || s.Enums[0].Name != "Y" || s.Enums[1].Name != "Z" {
+		t.Errorf("%v", s)
 	}
 }
 

@@ -167,6 +167,9 @@ func TestGet(t *testing.T) {
 	if deep.Fields[0].Num == 99 || m.Fields[1].L[1].N == 99 {
 		t.Error("what is told is the argument's memory")
 	}
+	if l, ok := Get(m, 1); !ok || len(l) != 1 || l[0].N != 3 {
+		t.Errorf("%v %v", l, ok)
+	}
 	if l, ok := Get(m, 2); ok || l != nil {
 		t.Errorf("%v", l)
 	}
@@ -196,6 +199,7 @@ func TestCmp(t *testing.T) {
 		{api.KString, tx("a"), tx("ab"), -1},
 		{api.KString, tx("\xff"), tx("a"), 1},
 		{api.KBytes, tx("a"), tx("a"), 0},
+		{api.KBytes, tx("b"), tx("a"), 1},
 		{api.KMessage, in(deep), in(api.Msg{}), 0},
 		{0, n(1), n(2), 0},
 	} {
@@ -221,6 +225,9 @@ func TestMerge(t *testing.T) {
 		{msg(f(23, sub(f(1, n(1))))), msg(f(23, sub(), sub())), msg(f(23, sub(f(1, n(1))), sub(), sub()))},
 		{msg(f(31, n(-3), tx("a"), n(-1), tx("b"), n(2), tx("c"))), msg(f(31, n(-2), tx("A"), n(-1), tx("B"), n(3), tx("C"))),
 			msg(f(31, n(-3), tx("a"), n(-2), tx("A"), n(-1), tx("B"), n(2), tx("c"), n(3), tx("C")))},
+		{msg(f(31, n(5), tx("a"))), msg(f(31, n(1), tx("b"))), msg(f(31, n(1), tx("b"), n(5), tx("a")))},
+		{msg(f(31, n(1), tx("a"))), msg(f(31, n(5), tx("b"))), msg(f(31, n(1), tx("a"), n(5), tx("b")))},
+		{msg(f(31, n(1), tx("a"))), msg(f(31, n(1), tx("b"))), msg(f(31, n(1), tx("b")))},
 		{msg(f(32, tx("a"), sub(f(1, n(1))))), msg(f(32, tx("a"), sub(f(2, tx("x"))))), msg(f(32, tx("a"), sub(f(2, tx("x")))))},
 		{msg(f(41, n(1))), msg(f(42, tx(""))), msg(f(42, tx("")))},
 		{msg(f(42, tx("a"))), msg(f(41, n(0))), msg(f(41, n(0)))},
@@ -267,7 +274,9 @@ func TestSize(t *testing.T) {
 		{api.Msg{}, 1, 0},
 		{rest("\x98\x03\x01"), 1, 0},
 		{msg(f(1, n(1)), f(2, tx("a"))), 1, 2},
-		{msg(f(21, n(1), n(0)), f(31, n(1), tx("a"), n(2), tx("b"))), 1, 6},
+		{msg(f(21, n(1), n(-1)), f(31, n(1), tx("a"), n(2), tx("b"))), 1, 6},
+		{msg(f(5, in(api.Msg{}))), 2, 1},
+		{msg(f(5, in(msg(f(5, in(api.Msg{})))))), 3, 2},
 		{msg(f(5, in(msg(f(1, n(1)))))), 2, 2},
 		{msg(f(5, in(rest("\x98\x03\x01")))), 2, 1},
 		{msg(f(23, in(msg(f(1, n(1)))), in(msg(f(23, in(msg(f(1, n(1)))), in(msg(f(2, tx("a"))))))))), 3, 7},

@@ -92,6 +92,8 @@ func TestSplitErrors(t *testing.T) {
 		{"\x09\x01\x02\x03\x04\x05\x06\x07", api.ErrMalformed},
 		{"\x0d\x01\x02\x03", api.ErrMalformed},
 		{"\x0a\x02a", api.ErrMalformed},
+		{"\x0a", api.ErrMalformed},
+		{"\x0a\x80", api.ErrMalformed},
 		{"\x0a\xff\xff\xff\xff\xff\xff\xff\xff\x7f", api.ErrMalformed},
 		{"\x08\x01\x80", api.ErrMalformed},
 		{"\x80\x80\x80\x80\x10\x00", api.ErrMalformed},

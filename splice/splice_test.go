@@ -160,6 +160,8 @@ func TestMerge(t *testing.T) {
 		{"M", "i", "", str(2, "\xff"), api.ErrMalformed},
 		{"M", "m", str(3, half), str(3, half), api.ErrLimit},
 		{"M", "s", half, half, api.OK},
+		{"M", "rm", str(2, strings.Repeat("a", api.MaxBytes-5)), str(7), api.OK},
+		{"M", "rm", str(2, strings.Repeat("a", api.MaxBytes-4)), str(7), api.ErrLimit},
 		{"M", "r", half + list, list, api.ErrLimit},
 		{"M", "m.r", str(3, half, list), str(3, list), api.ErrLimit},
 	} {

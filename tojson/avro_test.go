@@ -58,6 +58,7 @@ func TestAvro(t *testing.T) {
 		{`"string"`, at("é\""), `"é\""`},
 		{fixed, at("\x00\xff"), `"AP8="`},
 		{enum, av(1), `"B"`},
+		{enum, av(0), `"A"`},
 		{array, al(av(1), av(-2)), `[1,-2]`},
 		{array, api.AVal{}, `[]`},
 		{maps, mp(" a", av(1), av(2)), `{"":"1","a":"2"}`},
@@ -155,6 +156,10 @@ func TestFromAvroErrors(t *testing.T) {
 				t.Errorf("%s: %s", x.tree, json.Print(back))
 			}
 		}
+	}
+	twice := api.JNode{Kind: api.JTable, Names: []string{"a", "a"}, L: []api.JNode{{Kind: api.JText, S: "1"}, {Kind: api.JText, S: "1"}}}
+	if _, e := FromAvro(from(t, maps), 0, twice); e != api.ErrType {
+		t.Errorf("a key twice: %d", e)
 	}
 	rows := from(t, `{"type":"record","name":"R","fields":[{"name":"a","type":{"type":"array","items":"R"}}]}`)
 	leaf := api.JNode{Kind: api.JTable, Names: []string{"a"}, L: []api.JNode{{Kind: api.JList}}}

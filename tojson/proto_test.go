@@ -22,6 +22,8 @@ message M {
   oneof one { int32 a = 51; string z = 52; M c = 53; }
 }
 enum E { ZERO = 0; TWO = 2; NEG = -1; }
+message K { map<int32, bool> a = 1; map<int64, bool> b = 2; map<sint32, bool> c = 3; map<sint64, bool> d = 4; map<sfixed32, bool> e = 5; map<sfixed64, bool> f = 6;
+  map<uint32, bool> g = 7; map<uint64, bool> h = 8; map<fixed32, bool> i = 9; map<fixed64, bool> j = 10; map<bool, bool> k = 11; map<string, bool> l = 12; }
 `
 
 func schema(t *testing.T) api.PSchema {
@@ -80,6 +82,37 @@ func TestProto(t *testing.T) {
 	}
 }
 
+// P28.1: keys of each kind, with signs and without.
+func TestKeys(t *testing.T) {
+	s := schema(t)
+	p, _ := prule.Message(s, "K")
+	for _, x := range p.Fields {
+		m := msg(f(x.Num, n(-1), n(1), n(1), n(0)))
+		want := `{"` + x.Name + `":{"-1":true,"1":false}}`
+		switch x.Key {
+		case api.KUint32, api.KFixed32:
+			m = msg(f(x.Num, n(1), n(0), n(1<<32-1), n(1)))
+			want = `{"` + x.Name + `":{"1":false,"4294967295":true}}`
+		case api.KUint64, api.KFixed64:
+			m = msg(f(x.Num, n(1), n(0), n(-1), n(1)))
+			want = `{"` + x.Name + `":{"1":false,"18446744073709551615":true}}`
+		case api.KBool:
+			m = msg(f(x.Num, n(0), n(1)))
+			want = `{"` + x.Name + `":{"false":true}}`
+		case api.KString:
+			m = msg(f(x.Num, tx(""), n(1)))
+			want = `{"` + x.Name + `":{"":true}}`
+		}
+		tree, e := Proto(s, "K", m)
+		if json.Print(tree) != want || e != api.OK {
+			t.Errorf("%s: %d, not %s", json.Print(tree), e, want)
+		}
+		if back, e := FromProto(s, "K", tree); e != api.OK || !pval.Same(back, m) {
+			t.Errorf("%s: %v %d", want, back, e)
+		}
+	}
+}
+
 // P28.1
 func TestFromProtoErrors(t *testing.T) {
 	s := schema(t)
@@ -132,6 +165,10 @@ func TestFromProtoErrors(t *testing.T) {
 		{Kind: api.JTable, Names: []string{"i", "i"}, L: []api.JNode{{Kind: api.JInt, N: 2}, {Kind: api.JInt, N: 2}}},
 		{Kind: api.JTable, Names: []string{"ms"}, L: []api.JNode{{Kind: api.JTable, Names: []string{"\xff"}, L: []api.JNode{{Kind: api.JTable}}}}},
 		{Kind: api.JTable, Names: []string{"ms"}, L: []api.JNode{{Kind: api.JTable, Names: []string{"a"}}}},
+		{Kind: api.JTable, Names: []string{"mi"}, L: []api.JNode{{Kind: api.JTable, Names: []string{"1", "1"}, L: []api.JNode{{Kind: api.JText, S: "1"}, {Kind: api.JText, S: "1"}}}}},
+		{Kind: api.JTable, Names: []string{"f"}, L: []api.JNode{{Kind: api.JInt, S: "0x00000001"}}},
+		{Kind: api.JTable, Names: []string{"l"}, L: []api.JNode{{Kind: api.JInt, S: "1"}}},
+		{Kind: api.JTable, Names: []string{"y"}, L: []api.JNode{{Kind: api.JInt, S: "YQ=="}}},
 	} {
 		if m, e := FromProto(s, "M", tree); e != api.ErrType {
 			t.Errorf("%v: %v %d", tree, m, e)

@@ -100,6 +100,8 @@ func TestLexErrors(t *testing.T) {
 		{"a+b", api.ErrMalformed, 1},
 		{"a:", api.ErrMalformed, 1},
 		{"\x7f", api.ErrMalformed, 0},
+		{" \x08", api.ErrMalformed, 1},
+		{" \x0e", api.ErrMalformed, 1},
 		{"@[`{", api.ErrMalformed, 0},
 		{"a 1a ?", api.ErrMalformed, 2},
 		{strings.Repeat(" ", api.MaxText), api.OK, 0},
