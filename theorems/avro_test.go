@@ -119,6 +119,12 @@ func avroSchema(r *rand.Rand) (api.ASchema, string) {
 
 // changedAvro tells a schema that another one may have become.
 func changedAvro(r *rand.Rand, text string) api.ASchema {
+	s, _ := changedText(r, text)
+	return s
+}
+
+// changedText tells it with its text.
+func changedText(r *rand.Rand, text string) (api.ASchema, string) {
 	for range 20 {
 		out := text
 		for range 1 + r.Intn(3) {
@@ -135,11 +141,10 @@ func changedAvro(r *rand.Rand, text string) api.ASchema {
 			continue
 		}
 		if e, _, _ := adef.Check(s); e == api.OK {
-			return s
+			return s, out
 		}
 	}
-	s, _ := avroSchema(r)
-	return s
+	return avroSchema(r)
 }
 
 // avroValue makes up a value of a type that has one.
