@@ -137,8 +137,16 @@ func TestSchemaErrors(t *testing.T) {
 		{"message M { oneof o { int32 a = 1; } oneof o { X b = 2; } }", api.ErrName, "M"},
 		{"message M { message N { int32 a = 0; } X a = 1; }", api.ErrName, "M"},
 		{"message M { message N { int32 a = 0; } enum E {} }", api.ErrRule, "M.N"},
-		{"message M { enum E {} } message N { X a = 1; }", api.ErrName, "N"},
+		{"message M { enum E {} } message N { X a = 1; }", api.ErrRule, "M.E"},
+		{"message M { enum E { A = 0; A = 1; } } message N { int32 a = 0; }", api.ErrTwice, "M.E"},
+		{"message M { message L { enum E {} } int32 a = 1; } message N { X a = 1; }", api.ErrRule, "M.L.E"},
+		{"message M { message L { enum E {} } message K { X a = 1; } }", api.ErrRule, "M.L.E"},
+		{"message M { enum E {} message L { X a = 1; } }", api.ErrName, "M.L"},
+		{"message M { enum E {} X a = 1; }", api.ErrName, "M"},
+		{"message M { enum E {} enum F { A = 0; A = 1; } }", api.ErrRule, "M.E"},
+		{"enum E {} message M { X a = 1; }", api.ErrName, "M"},
 		{"enum F { A = 0; A = 1; } message M { enum E {} }", api.ErrRule, "M.E"},
+		{"message M { enum E {} } message N {} message N {}", api.ErrTwice, "N"},
 		{"enum E { A = 1; A = 1; }", api.ErrRule, "E"},
 	} {
 		s, e, whole := schema(t, "root:"+x.text)
@@ -151,6 +159,25 @@ func TestSchemaErrors(t *testing.T) {
 	}
 	if _, e, whole := schema(t, "root:package p; import 'b'; message M { message N {} } message X { int32 a = 0; }", "b:package p.M; message N {}"); e != api.ErrTwice || whole != "p.M.N" {
 		t.Errorf("in two files: %d %s", e, whole)
+	}
+}
+
+// P10.1: files in order: what is imported stands ahead of who imports it, its enums, too.
+func TestSchemaErrorsOfFiles(t *testing.T) {
+	for _, x := range []struct {
+		root, far string
+		e         api.Errno
+		whole     string
+	}{
+		{"message A { X a = 1; }", "enum E { B = 1; }", api.ErrRule, "E"},
+		{"message A { X a = 1; }", "message M { enum E { B = 1; } }", api.ErrRule, "M.E"},
+		{"enum E { B = 1; }", "message M { X a = 1; }", api.ErrName, "M"},
+		{"enum E { B = 1; }", "enum F { B = 0; C = 0; }", api.ErrTwice, "F"},
+		{"message A { enum E { B = 1; } }", "message M {} enum F { B = 0; }", api.ErrRule, "A.E"},
+	} {
+		if _, e, whole := schema(t, "root:import 'far'; "+x.root, "far:"+x.far); e != x.e || whole != x.whole {
+			t.Errorf("%s, %s: %d in %s, not %d in %s", x.root, x.far, e, whole, x.e, x.whole)
+		}
 	}
 }
 
