@@ -3,6 +3,7 @@ package avsc
 import (
 	"fmt"
 	"reflect"
+	"slices"
 	"strings"
 	"testing"
 
@@ -103,9 +104,40 @@ func TestNamespaces(t *testing.T) {
 	if f := s.Types[0].Fields; f[2].Type != f[0].Type || f[3].Type != f[0].Type {
 		t.Errorf("the namespace around it is not first: %v", f)
 	}
-	s, _ = from(t, record(`"name":"a.R","aliases":["Q","x.Q"]`, fixed(`"name":"F","aliases":["G"]`)))
-	if !reflect.DeepEqual(s.Types[1].Aliases, []string{"a.G"}) || s.Types[0].Aliases[1] != "x.Q" {
-		t.Errorf("%v", s.Types)
+}
+
+// P11.2: aliases of types have the namespace of their type's whole name, wherever it comes from.
+func TestAliases(t *testing.T) {
+	forms := []string{`{"type":"record",#,"fields":[]}`, `{"type":"enum",#,"symbols":["A"]}`, `{"type":"fixed",#,"size":1}`}
+	for _, x := range []struct {
+		head string
+		want []string
+	}{
+		{`"name":"R"`, nil},
+		{`"name":"R","aliases":[]`, nil},
+		{`"name":"R","aliases":["Q","x.P"]`, []string{"o.p.Q", "x.P"}},
+		{`"name":"c.R","aliases":["Q","x.P"]`, []string{"c.Q", "x.P"}},
+		{`"name":"b.c.R","aliases":["x.P","Q","Q"]`, []string{"x.P", "b.c.Q", "b.c.Q"}},
+		{`"name":"R","namespace":"n","aliases":["Q","x.P"]`, []string{"n.Q", "x.P"}},
+		{`"name":"R","namespace":"n.m","aliases":["Q"]`, []string{"n.m.Q"}},
+		{`"name":"R","namespace":"","aliases":["Q","x.P"]`, []string{"Q", "x.P"}},
+		{`"name":"c.R","namespace":"n","aliases":["Q","x.P"]`, []string{"c.Q", "x.P"}},
+		{`"name":"c.R","namespace":"","aliases":["Q"]`, []string{"c.Q"}},
+	} {
+		for _, form := range forms {
+			s, e := from(t, `{"type":"record","name":"o.p.O","fields":[{"name":"f","type":`+strings.Replace(form, "#", x.head, 1)+`}]}`)
+			if e != api.OK || len(s.Types) != 2 || !slices.Equal(s.Types[1].Aliases, x.want) {
+				t.Errorf("%s: %d %v", x.head, e, s.Types)
+			}
+		}
+	}
+	for _, form := range forms {
+		for head, want := range map[string]string{`"name":"R","aliases":["Q"]`: "Q", `"name":"a.R","aliases":["Q"]`: "a.Q", `"name":"a.b.R","aliases":["Q"]`: "a.b.Q"} {
+			s, e := from(t, strings.Replace(form, "#", head, 1))
+			if e != api.OK || len(s.Types) != 1 || !slices.Equal(s.Types[0].Aliases, []string{want}) {
+				t.Errorf("alone: %s: %d %v", head, e, s.Types)
+			}
+		}
 	}
 }
 
