@@ -114,3 +114,48 @@ func TestEncodeErrors(t *testing.T) {
 		}
 	}
 }
+
+// P22.1
+func TestBytesBehindAreCounted(t *testing.T) {
+	head := func(behind string) string {
+		return `{"type":"record","name":"H","fields":[{"name":"f","type":"bytes"},{"name":"g","type":` + behind + `}]}`
+	}
+	none := `{"type":"record","name":"E","fields":[]}`
+	rest := `{"type":"record","name":"S","fields":[{"name":"h","type":[` + none + `,"S"]}]}`
+	deep := un(0, api.AVal{})
+	for range 9 {
+		deep = un(1, in(deep))
+	}
+	for i, x := range []struct {
+		behind string
+		v      api.AVal
+		bytes  int
+	}{
+		{none, api.AVal{}, 0},
+		{`"null"`, api.AVal{}, 0},
+		{`{"type":"fixed","name":"F","size":0}`, tx(""), 0},
+		{`["null"]`, un(0, api.AVal{}), 1},
+		{`[` + none + `]`, un(0, api.AVal{}), 1},
+		{`["null",{"type":"fixed","name":"F","size":0}]`, un(1, tx("")), 1},
+		{rest, in(deep), 10},
+		{`{"type":"array","items":` + none + `}`, api.AVal{}, 1},
+		{`{"type":"array","items":` + none + `}`, in(api.AVal{}, api.AVal{}), 2},
+		{`{"type":"array","items":[` + none + `]}`, in(un(0, api.AVal{}), un(0, api.AVal{})), 4},
+		{`{"type":"map","values":` + none + `}`, mp("a bc", api.AVal{}, api.AVal{}), 7},
+		{`["null",{"type":"array","items":"null"}]`, un(1, api.AVal{}), 2},
+		{`"boolean"`, n(1), 1},
+		{`"long"`, n(-1 << 63), 10},
+		{`"double"`, n(1), 8},
+	} {
+		s := from(t, head(x.behind))
+		// A text of so many bytes has two bytes ahead that say how many.
+		full := api.MaxBytes - 2 - x.bytes
+		v := func(size int) api.AVal { return in(tx(strings.Repeat("a", size)), x.v) }
+		if b, e := Encode(s, 0, v(full)); e != api.OK || len(b) != api.MaxBytes {
+			t.Errorf("%d: %d bytes %d", i, len(b), e)
+		}
+		if b, e := Encode(s, 0, v(full+1)); e != api.ErrLimit || b != nil {
+			t.Errorf("%d: one more: %d bytes %d", i, len(b), e)
+		}
+	}
+}
