@@ -220,8 +220,31 @@ func TestCount(t *testing.T) {
 		{str(21, part(2000, "\x00")) + num(41, 1), api.ErrLimit},
 		{str(21, part(1999, "\x00")) + num(41, 1) + str(42), api.ErrLimit},
 		{str(21, part(2001, "\x00"), "\x80"), api.ErrLimit},
-		{str(21, part(2000, "\x00"), "\x80") + str(21, "\x80"), api.ErrLimit},
 		{str(21, part(1999, "\x00"), "\x80"), api.ErrMalformed},
+		// what is no value does not count
+		{str(21, part(2000, "\x00"), "\x80"), api.ErrMalformed},
+		{str(21, part(2000, "\x00"), "\x80") + str(21, "\x80"), api.ErrMalformed},
+		{str(21, part(2000, "\x00"), "\x80\x80\x80\x80\x80\x80\x80\x80\x80\x02"), api.ErrMalformed},
+		{str(21, part(2000, "\x00"), "\x00\x80"), api.ErrLimit},
+		{str(21, part(2000, "\x00")) + str(21), api.OK},
+		{str(21, part(2000, "\x00")) + str(21, "\x80"), api.ErrMalformed},
+		{str(21, part(2000, "\x00")) + str(21, "\x00"), api.ErrLimit},
+		{str(21, part(2000, "\x00")) + str(24, "\x00\x00\x00"), api.ErrMalformed},
+		{str(21, part(2000, "\x00")) + str(24, "\x00\x00\x00\x00"), api.ErrLimit},
+		{str(21, part(2000, "\x00")) + str(25, "\x00\x00\x00\x00\x00\x00\x00"), api.ErrMalformed},
+		{str(21, part(2000, "\x00")) + str(25, "\x00\x00\x00\x00\x00\x00\x00\x00"), api.ErrLimit},
+		{str(21, part(2000, "\x00")) + str(2, "\xff"), api.ErrMalformed},
+		{str(21, part(2000, "\x00")) + str(2, "a"), api.ErrLimit},
+		{str(21, part(2000, "\x00")) + str(3, "\xff"), api.ErrLimit},
+		{str(21, part(2000, "\x00")) + str(22, "\xff"), api.ErrMalformed},
+		{str(21, part(2000, "\x00")) + str(31, str(2, "\xff")), api.ErrMalformed},
+		{str(21, part(2000, "\x00")) + str(32, str(1, "\xff")), api.ErrMalformed},
+		{str(21, part(2000, "\x00")) + str(31, "\x08"), api.ErrMalformed},
+		// the first error counts
+		{str(21, part(2000, "\x00")) + str(2, "a") + str(2, "\xff"), api.ErrLimit},
+		{str(21, part(2000, "\x00")) + num(1, 1) + str(21, "\x80"), api.ErrLimit},
+		{str(21, part(2000, "\x00")) + str(5, str(2, "\xff")), api.ErrLimit},
+		{str(21, part(1999, "\x00")) + str(5, str(2, "\xff")), api.ErrMalformed},
 	} {
 		if _, e := Decode(s, "M", []byte(x.b)); e != x.e {
 			t.Errorf("%d: %d, not %d", i, e, x.e)
